@@ -1,6 +1,7 @@
 package utf
 
 import (
+	"iter"
 	"math/bits"
 
 	"lectern/api"
@@ -36,6 +37,19 @@ func caught(do func()) (place int, e api.Errno) {
 	}()
 	do()
 	return 0, api.OK
+}
+
+// scalars tells places and scalars of s, one behind the other, and throws where there is none: only for what is caught.
+func scalars(s string) iter.Seq2[int, rune] {
+	return func(yield func(int, rune) bool) {
+		for at := 0; at < len(s); {
+			r, long := first(s, at)
+			if !yield(at, r) {
+				return
+			}
+			at += long
+		}
+	}
 }
 
 // first reads the form that begins at a place ahead of s's end: its scalar, and how many bytes it has.
